@@ -29,20 +29,21 @@ func Insts(t *base.Table, k gen.Kap) []Inst {
 }
 
 // numbersAhead: how many numbers are among the parameters ahead of a place; false:
-// there is no such place, or its value is no number.
+// there is no such place. Of what type its own value is says nothing here: whether a
+// place is open is layer 17's to tell.
 func numbersAhead(t *base.Table, k gen.Kap) (int, bool) {
 	i, there := t.Find(syntax.Fn, k.Fn)
 	if !there {
 		return 0, false
 	}
 	it, _ := t.Item(i)
-	ahead, typ := it.Params, it.Result
+	ahead := it.Params
 	switch {
 	case k.Pos == gen.Result:
 	case k.Pos < 0 || k.Pos >= len(it.Params):
 		return 0, false
 	default:
-		ahead, typ = it.Params[:k.Pos], it.Params[k.Pos].Type
+		ahead = it.Params[:k.Pos]
 	}
 	count := 0
 	for _, p := range ahead {
@@ -50,7 +51,7 @@ func numbersAhead(t *base.Table, k gen.Kap) (int, bool) {
 			count++
 		}
 	}
-	return count, typ.Base == api.Int
+	return count, true
 }
 
 // rows: the first of so many columns, each below count, in order. The first ones of

@@ -28,13 +28,16 @@ func TestInsts(t *testing.T) {
 		{kap{Fn: "f", Pos: gen.Result}, "p() q(0) q(1) q(2) r(0 0) r(0 1) r(0 2) r(1 0) r(1 1) r(1 2) r(2 0) r(2 1) r(2 2)"},
 		{kap{Fn: "g", Pos: gen.Result}, "p() q(0) r(0 0)"},
 		{kap{Fn: "k", Pos: gen.Result}, "p()"},
-		// No number, no such place, no such function; a qualifier's name is none.
-		{kap{Fn: "f", Pos: 1}, ""},
-		{kap{Fn: "f", Pos: 3}, ""},
-		{kap{Fn: "h", Pos: gen.Result}, ""},
+		// A truth, an array; behind no number.
+		{kap{Fn: "f", Pos: 1}, "p() q(0) r(0 0)"},
+		{kap{Fn: "f", Pos: 3}, "p() q(0) q(1) r(0 0) r(0 1) r(1 0) r(1 1)"},
+		{kap{Fn: "h", Pos: 0}, "p()"},
+		{kap{Fn: "h", Pos: gen.Result}, "p()"},
+		// No such place, no such function; a qualifier's name is none.
 		{kap{Fn: "f", Pos: 5}, ""},
 		{kap{Fn: "f", Pos: -2}, ""},
 		{kap{Fn: "k", Pos: 0}, ""},
+		{kap{Fn: "h", Pos: 1}, ""},
 		{kap{Fn: "p", Pos: 0}, ""},
 		{kap{Fn: "nobody", Pos: 0}, ""},
 		{kap{}, ""},
@@ -48,6 +51,45 @@ func TestInsts(t *testing.T) {
 	}
 	if l := horn.Insts(base.New(nil), kap{Fn: "f"}); len(l) != 0 {
 		t.Error("an empty table:", l)
+	}
+}
+
+// TestInstsOfAnyType: what is tried for a place hangs on the numbers ahead of it, not
+// on its own type, its predicate, or whether its function is pub.
+func TestInstsOfAnyType(t *testing.T) {
+	const quals = "qual p(a) = a >= 0; qual q(a, b) = a < b; "
+	of := func(pos int) kap { return kap{Fn: "f", Pos: pos} }
+	for text, want := range map[string]map[kap]string{
+		"qual p(a) = a >= 0; fn f(b: bool) -> int = 1;": {of(0): "p()", of(gen.Result): "p()", of(1): ""},
+		quals + "fn f(x: int, y: bool, z: arr 2) -> bool = y;": {
+			of(0): "p()", of(1): "p() q(0)", of(2): "p() q(0)", of(gen.Result): "p() q(0)", of(3): "", of(-2): "", {Fn: "g"}: "",
+		},
+	} {
+		table := rightTable(t, text)
+		for k, w := range want {
+			if got := instsText(table, horn.Insts(table, k)); got != w {
+				t.Errorf("%s: %v: got %s, not %s", text, k, got, w)
+			}
+		}
+	}
+	for typ, value := range map[string]string{"int": "1", "int{v > 0}": "1", "bool": "true", "bool{v}": "true", "arr 0": "fill(0, 0)", "arr 2": "fill(2, 0)"} {
+		for _, pub := range []string{"", "pub "} {
+			text := quals + pub + "fn f(a: " + typ + ") -> int = 1; " + pub + "fn g(b: bool, x: int, y: int{v > 0}, z: arr 2, a: " + typ + ") -> " + typ + " = " + value + ";"
+			table := rightTable(t, text)
+			for k, w := range map[kap]string{of(0): "p()", {Fn: "g", Pos: 4}: "p() q(0) q(1)"} {
+				if got := instsText(table, horn.Insts(table, k)); got != w {
+					t.Errorf("%s: %v: got %s, not %s", text, k, got, w)
+				}
+			}
+			got := instsText(table, horn.Insts(table, kap{Fn: "g", Pos: gen.Result}))
+			want := "p() q(0) q(1)"
+			if strings.HasPrefix(typ, "int") {
+				want += " q(2)"
+			}
+			if got != want {
+				t.Errorf("%s: the result: got %s, not %s", text, got, want)
+			}
+		}
 	}
 }
 
@@ -99,18 +141,20 @@ func TestInstsDrawn(t *testing.T) {
 		var params []string
 		numbers := []int{0} // ahead of each place
 		for i := range m.Intn(api.MaxParams + 1) {
-			is := m.Intn(4)
-			params = append(params, fmt.Sprint("p", i, ": ", []string{"bool", "int", "int{v > 0}", "int"}[is]))
-			numbers = append(numbers, numbers[i]+min(is, 1))
+			is := []string{"bool", "int", "int{v > 0}", "int", "arr 3"}[m.Intn(5)]
+			params = append(params, fmt.Sprint("p", i, ": ", is))
+			numbers = append(numbers, numbers[i])
+			if strings.HasPrefix(is, "int") {
+				numbers[i+1]++
+			}
 		}
-		s.WriteString("fn f(" + strings.Join(params, ", ") + ") -> int = 1;")
+		result := []string{"int = 1", "bool = true", "arr 1 = fill(1, 1)"}[m.Intn(3)]
+		s.WriteString("fn f(" + strings.Join(params, ", ") + ") -> " + result + ";")
 		table := rightTable(t, s.String())
 		for i, n := range numbers {
 			k := kap{Fn: "f", Pos: i}
 			if i == len(params) {
 				k.Pos = gen.Result
-			} else if strings.Contains(params[i], "bool") {
-				continue
 			}
 			got, want := horn.Insts(table, k), tried(table, n)
 			if len(want) == api.MaxInst {

@@ -96,6 +96,28 @@ func TestPlacesWithoutConditions(t *testing.T) {
 	}
 }
 
+// TestPlacesThatAreNotOpen: whoever names them gets what is tried, as far as the
+// conditions that are handed in let it hold.
+func TestPlacesThatAreNotOpen(t *testing.T) {
+	table := rightTable(t, "qual p(a) = a >= 0; qual n(a) = a < 0; qual l(a, b) = a < b; fn f(x: int, y: bool, z: arr 2) -> bool = y; pub fn g(x: int) -> bool = f(x, true, fill(2, x));")
+	places := []kap{{Fn: "f", Pos: 1}, {Fn: "f", Pos: 2}, {Fn: "f", Pos: gen.Result}, {Fn: "g", Pos: 0}}
+	s := sol{}
+	horn.New().Solve(table, partsOf(table), places, s)
+	if got := solText(table, s); got != "f.-1: p() n() l(0); f.1: p() n() l(0); f.2: p() n() l(0); g.0: p() n()" {
+		t.Error("no condition is one of them:", got)
+	}
+	x := linear.Var(0)
+	conds := []gen.Cons{
+		made(used(places[0], num(3), num(4))),
+		made(used(places[1], x, num(0)), used(places[0], x, num(5))),
+	}
+	s = sol{}
+	horn.New().Solve(table, []horn.Part{{Fn: "f", Cons: conds}}, places, s)
+	if got := solText(table, s); got != "f.-1: p() n() l(0); f.1: p() l(0); f.2: p(); g.0: p() n()" {
+		t.Error("two conditions:", got)
+	}
+}
+
 // made is a condition of a place's value and of a formula, by hand.
 func made(head gen.Hyp, hyps ...gen.Hyp) gen.Cons {
 	return gen.Cons{Fn: "f", Head: head, Hyps: hyps, Code: api.CodeAssert}
